@@ -25,25 +25,9 @@ func TestKindsShareNoMemory(t *testing.T) {
 }
 
 func TestKindSplitSharesNoMemory(t *testing.T) {
-	first := func(lists [][]int) ([]int, bool) {
-		turning, _, ok := impl.KindSplit(lists[0])
-		return turning, ok
-	}
-	second := func(lists [][]int) ([]int, bool) {
-		_, oneWay, ok := impl.KindSplit(lists[0])
-		return oneWay, ok
-	}
 	for n := 1; n <= pointsMax; n++ {
 		for a := range someRelationsOn(n) {
-			wantOwnMemory(t, "the first one of KindSplit", first, a)
-			wantOwnMemory(t, "the second one of KindSplit", second, a)
-			turning, oneWay, _ := impl.KindSplit(a)
-			wantTurning, wantOneWay := slices.Clone(turning), slices.Clone(oneWay)
-			spoil(turning)
-			wantList(t, "the second one of KindSplit behind a change of the first one", oneWay, true, wantOneWay)
-			turning, oneWay, _ = impl.KindSplit(a)
-			spoil(oneWay)
-			wantList(t, "the first one of KindSplit behind a change of the second one", turning, true, wantTurning)
+			wantTwoOwnLists(t, "KindSplit", impl.KindSplit, a)
 		}
 	}
 }

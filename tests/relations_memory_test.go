@@ -36,6 +36,26 @@ func wantOwnMemory(t *testing.T, name string, f func(lists [][]int) ([]int, bool
 	wantList(t, fmt.Sprintf("%s(%v) behind a change of its arguments", name, lists), second, ok, want)
 }
 
+// wantTwoOwnLists is wantOwnMemory for each of two lists that a function of a list returns; they share none with each other either.
+func wantTwoOwnLists(t *testing.T, name string, f func([]int) ([]int, []int, bool), a []int) {
+	t.Helper()
+	wantOwnMemory(t, "the first one of "+name, func(lists [][]int) ([]int, bool) {
+		first, _, ok := f(lists[0])
+		return first, ok
+	}, a)
+	wantOwnMemory(t, "the second one of "+name, func(lists [][]int) ([]int, bool) {
+		_, second, ok := f(lists[0])
+		return second, ok
+	}, a)
+	first, second, ok := f(a)
+	wantFirst, wantSecond := slices.Clone(first), slices.Clone(second)
+	spoil(first)
+	wantList(t, "the second one of "+name+" behind a change of the first one", second, ok, wantSecond)
+	first, second, ok = f(a)
+	spoil(second)
+	wantList(t, "the first one of "+name+" behind a change of the second one", first, ok, wantFirst)
+}
+
 func TestResultsShareNoMemory(t *testing.T) {
 	ofOne := map[string]func([]int) ([]int, bool){"RelOther": impl.RelOther, "RelTurned": impl.RelTurned}
 	ofTwo := map[string]func([]int, []int) ([]int, bool){"RelEither": impl.RelEither, "RelBoth": impl.RelBoth}
