@@ -56,6 +56,36 @@ func wantTwoOwnLists(t *testing.T, name string, f func([]int) ([]int, []int, boo
 	wantList(t, "the first one of "+name+" behind a change of the second one", first, ok, wantFirst)
 }
 
+// wantOwnLists is wantOwnMemory for a function that returns a list of lists; these share none with each other either.
+func wantOwnLists(t *testing.T, name string, f func([]int) ([][]int, bool), a []int) {
+	t.Helper()
+	given, whole := roomy(a)
+	before := slices.Clone(whole)
+	first, ok := f(given)
+	if !ok {
+		t.Fatalf("%s(%v) fails", name, a)
+	}
+	want := [][]int{}
+	for _, list := range first {
+		want = append(want, slices.Clone(list))
+	}
+	for i, list := range first {
+		spoil(list)
+		for j := i + 1; j < len(first); j++ {
+			if !slices.Equal(first[j], want[j]) {
+				t.Fatalf("%s(%v): the lists %d and %d share memory", name, a, i, j)
+			}
+		}
+	}
+	clear(first[:cap(first)])
+	if !slices.Equal(whole, before) {
+		t.Fatalf("%s(%v) changes its argument or shares its memory: %v", name, a, whole)
+	}
+	second, ok := f(given)
+	spoil(whole)
+	wantLists(t, fmt.Sprintf("%s(%v) once more", name, a), second, ok, want)
+}
+
 func TestResultsShareNoMemory(t *testing.T) {
 	ofOne := map[string]func([]int) ([]int, bool){"RelOther": impl.RelOther, "RelTurned": impl.RelTurned}
 	ofTwo := map[string]func([]int, []int) ([]int, bool){"RelEither": impl.RelEither, "RelBoth": impl.RelBoth}
@@ -106,30 +136,7 @@ func TestRelOfLeavesTheListOfPairs(t *testing.T) {
 func TestRelPairsShareNoMemory(t *testing.T) {
 	for n := 1; n <= pointsMax; n++ {
 		for a := range someRelationsOn(n) {
-			given, whole := roomy(a)
-			before := slices.Clone(whole)
-			first, ok := impl.RelPairs(given)
-			if !ok {
-				t.Fatalf("RelPairs(%v) fails", a)
-			}
-			want := [][]int{}
-			for _, pair := range first {
-				want = append(want, slices.Clone(pair))
-			}
-			for i, pair := range first {
-				spoil(pair)
-				for j := i + 1; j < len(first); j++ {
-					if !slices.Equal(first[j], want[j]) {
-						t.Fatalf("RelPairs(%v): the pairs %d and %d share memory", a, i, j)
-					}
-				}
-			}
-			if !slices.Equal(whole, before) {
-				t.Fatalf("RelPairs(%v) changes its argument or shares its memory: %v", a, whole)
-			}
-			second, ok := impl.RelPairs(given)
-			spoil(whole)
-			wantLists(t, fmt.Sprintf("RelPairs(%v) once more", a), second, ok, want)
+			wantOwnLists(t, "RelPairs", impl.RelPairs, a)
 		}
 	}
 }
